@@ -7,6 +7,7 @@ import (
 	"blazon/api"
 	"blazon/judge"
 	"blazon/match"
+	"blazon/replica"
 	"blazon/script"
 	"blazon/utf"
 )
@@ -145,43 +146,37 @@ func (c *Console) numbered(line string) (int, error) {
 	return a.N, nil
 }
 
-// node is the number of a node behind a line's word.
-func (c *Console) node(line string) (int, error) {
-	n, err := c.numbered(line)
-	if err == nil && n > 2*c.world.Setup().F {
-		err = api.ErrNone
+// ofNode is what a function tells of the node whose number stands behind a line's word.
+func (c *Console) ofNode(line string, tell func(n *replica.Node) []string) ([]string, error) {
+	i, err := c.numbered(line)
+	if err != nil {
+		return nil, err
 	}
-	return n, err
+	if i > 2*c.world.Setup().F {
+		return nil, api.ErrNone
+	}
+	if n := c.world.Node(i); n != nil {
+		return tell(n), nil
+	}
+	return []string{nothing}, nil
 }
 
 // tellNode tells how a node stands.
 func (c *Console) tellNode(line string) ([]string, error) {
-	i, err := c.node(line)
-	if err != nil {
-		return nil, err
-	}
-	n := c.world.Node(i)
-	if n == nil {
-		return []string{nothing}, nil
-	}
-	return []string{joined(number(n.Mode()), number(n.View()), number(n.Commit()), number(n.Dropped()))}, nil
+	return c.ofNode(line, func(n *replica.Node) []string {
+		return []string{joined(number(n.Mode()), number(n.View()), number(n.Commit()), number(n.Dropped()))}
+	})
 }
 
 // tellStore tells the entries of a node's directory.
 func (c *Console) tellStore(line string) ([]string, error) {
-	i, err := c.node(line)
-	if err != nil {
-		return nil, err
-	}
-	n := c.world.Node(i)
-	if n == nil {
-		return []string{nothing}, nil
-	}
-	var l []string
-	for _, x := range n.Store().All() {
-		l = append(l, entryText(x))
-	}
-	return l, nil
+	return c.ofNode(line, func(n *replica.Node) []string {
+		var l []string
+		for _, x := range n.Store().All() {
+			l = append(l, entryText(x))
+		}
+		return l
+	})
 }
 
 // tellClient tells how a client stands.

@@ -164,34 +164,30 @@ func (s *Store) search(o api.Op) api.Result {
 	if _, e := s.At(o.Cursor); e != api.OK {
 		return refused(e)
 	}
-	texts := make([][]rune, len(o.Parts))
+	var initial, final []rune
+	var between [][]rune
 	for i, part := range o.Parts {
 		if part == "" {
 			continue
 		}
-		text, e := match.Part(s.names, kind(i, len(o.Parts)), part)
+		p := api.PartAny
+		if i == 0 {
+			p = api.PartInitial
+		} else if i == len(o.Parts)-1 {
+			p = api.PartFinal
+		}
+		text, e := match.Part(s.names, p, part)
 		if e != api.OK {
 			return refused(e)
 		}
-		texts[i] = text
+		switch p {
+		case api.PartInitial:
+			initial = text
+		case api.PartFinal:
+			final = text
+		default:
+			between = append(between, text)
+		}
 	}
-	var initial, final []rune
-	if len(texts) > 0 {
-		initial, texts = texts[0], texts[1:]
-	}
-	if last := len(texts) - 1; last >= 0 {
-		final, texts = texts[last], texts[:last]
-	}
-	return s.page(o, func(x item) bool { return match.Within(x.text, initial, texts, final) })
-}
-
-// kind is what the part at a place of so many is.
-func kind(i, many int) api.Part {
-	switch i {
-	case 0:
-		return api.PartInitial
-	case many - 1:
-		return api.PartFinal
-	}
-	return api.PartAny
+	return s.page(o, func(x item) bool { return match.Within(x.text, initial, between, final) })
 }
