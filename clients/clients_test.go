@@ -179,7 +179,7 @@ func TestP25_2OfWrong(t *testing.T) {
 	}
 	long := append(slices.Clone(a[:16]), 255, 255, 255, 255)
 	for i, x := range [][]byte{
-		nil, {0, 0, 0}, table(1), table(0, a), table(1, a, b), table(2, a), table(2, b, a), table(2, a, a), table(17, many...), append(table(1, a), 0), table(1, append(slices.Clone(a[:16]), 0, 0, 0, 0)), table(1, append(slices.Clone(a[:16]), 0, 0, 0, 1, 9)), table(1, long), {255, 255, 255, 255}, append([]byte{1, 0, 0, 1}, a...),
+		nil, {0, 0, 0}, table(1), table(0, a), table(1, a, b), table(2, a), table(2, b, a), table(2, a, a), table(2, a, row(1, 2, api.Result{})), table(17, many...), append(table(1, a), 0), table(1, append(slices.Clone(a[:16]), 0, 0, 0, 0)), table(1, append(slices.Clone(a[:16]), 0, 0, 0, 1, 9)), table(1, long), {255, 255, 255, 255}, append([]byte{1, 0, 0, 1}, a...),
 	} {
 		if y, e := clients.Of(x); y != nil || e != api.ErrBytes {
 			t.Errorf("%d: %v", i, e)
@@ -244,7 +244,9 @@ func TestP25NilAndZero(t *testing.T) {
 		for c := range x.All() {
 			t.Error(c)
 		}
-		if !x.Same(nil) || !x.Same(&clients.Table{}) {
+		some := clients.New()
+		put(t, some, 1, 1, api.Result{})
+		if !x.Same(nil) || !x.Same(&clients.Table{}) || x.Same(some) || some.Same(x) {
 			t.Error("two nil ones are the same")
 		}
 	}

@@ -31,6 +31,7 @@ const weights = "0061 ; [.0010.0020.0002]\n" +
 	"0323 ; [.0000.002D.0002]\n" +
 	"0327 ; [.0000.0030.0002]\n" +
 	"0327 0323 ; [.0000.0031.0002]\n" +
+	"0065 030A ; [.0017.0020.0002]\n" +
 	"0020 ; [*0209.0020.0002]\n"
 
 // tables are the table and the data of the lines.
@@ -79,6 +80,8 @@ var cases = []struct {
 	{[]rune{0x61, 0x62, 0x63, 0x64}, [][]rune{{0x61, 0x62, 0x63, 0x64}}},
 	// where no line names S, nothing comes to it
 	{[]rune{0x64, 0x323, 0x30a}, [][]rune{{0x64}, {0x323}, {0x30a}}},
+	{[]rune{0x65, 0x30a, 0x323}, [][]rune{{0x65}, {0x323}, {0x30a}}}, // in order the dot stands ahead
+	{[]rune{0x65, 0x30a}, [][]rune{{0x65, 0x30a}}},
 	{[]rune{0x327, 0x323}, [][]rune{{0x327, 0x323}}},
 	{[]rune{0x323, 0x327}, [][]rune{{0x327, 0x323}}},
 	// what is no code point, and surrogates

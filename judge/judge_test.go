@@ -217,6 +217,17 @@ func TestP30_3MuchWaits(t *testing.T) {
 	right(t, "much waits", w)
 }
 
+func TestP30_3FullNet(t *testing.T) {
+	// Where half of what the net may have is there, nothing is promised: it may be that nothing more can be sent.
+	w := played(t, setup(1, 1), ask(1, add("a")))
+	for range (api.MaxNet - 1) / 3 {
+		w.Do(on(api.ActRetry, 1))
+	}
+	if _, under := judge.Rounds(w, 16).Session(1).Under(); !under || !judge.Lives(w, 16) {
+		t.Error(under)
+	}
+}
+
 func TestP30_4Drops(t *testing.T) {
 	w := played(t, setup(1, 1), ask(1, add("a")), all, on(api.ActOff, 2), back(2, 4), ask(1, add("b")), api.Act{Kind: api.ActCarry, N: 0})
 	var messages [][]byte

@@ -379,7 +379,9 @@ func TestP23_3Messages(t *testing.T) {
 	for _, c := range "wbpgm" {
 		without(&less, c)
 	}
-	messageKind.good(t, append(l, less))
+	most := only(api.MsgStart)
+	most.From, most.Seen = 6, make([]uint64, 7)
+	messageKind.good(t, append(l, less, most))
 }
 
 func TestP23_3MayNot(t *testing.T) {

@@ -188,6 +188,7 @@ func TestP26_2Commit(t *testing.T) {
 	takes(t, n, commit(0, 1))
 	stands(t, n, "normal v0 n0 0 [1.1 1.2] c1")
 	takes(t, n, commit(0, 0))
+	takes(t, n.Copy(), commit(0, 2)) // it has all
 	takes(t, n, commit(0, 4), "0: get v0 at2 f1")
 	stands(t, n, "normal v0 n0 0 [1.1 1.2] c2")
 	drops(t, of(t, 1, 0, 100), commit(0, 0))
@@ -307,6 +308,16 @@ func TestP26_2DoBest(t *testing.T) {
 	}
 }
 
+func TestP26_2DoAgain(t *testing.T) {
+	// One that leads again knows nothing of what others had when it led before.
+	n := of(t, 1, 0, 100)
+	n.Take(raw(t, request(ask(1, 1))))
+	n.Take(raw(t, ok(0, 1, 1)))
+	n.Take(raw(t, do(t, 3, 0, 0, 1, 1, three(0, 0, 0), asks(1)...)))
+	stands(t, n, "normal v3 n3 0 [1.1] c1")
+	ticks(t, n, "1: prepare v3 [1.1] at1 c1", "2: prepare v3 [1.1] at1 c1")
+}
+
 func TestP26_2DoLate(t *testing.T) {
 	// What a node told at an elder age counts no more, once a greater one is seen.
 	n := of(t, 2, 1, 100)
@@ -366,6 +377,62 @@ func TestP26_2View(t *testing.T) {
 	}
 	if num, _ := n.Clients().Latest(1); num != 6 {
 		t.Error(num)
+	}
+	ticks(t, n) // it has heard something
+	fresh := of(t, 1, 2, 100)
+	fresh.Take(raw(t, begun(t, 1, 0, 0, three(0, 0, 0))))
+	ticks(t, fresh)
+	stands(t, fresh, "normal v1 n1 0 [] c0")
+}
+
+// stateOf is what a node tells one that asks for what it has dropped.
+func stateOf(t *testing.T, n *replica.Node, view uint64) api.Message {
+	t.Helper()
+	m, e := message.Of(n.Take(raw(t, get(view, 1<<60, 0)))[0].Bytes)
+	if e != api.OK {
+		t.Fatal(e)
+	}
+	return m
+}
+
+func TestP26_2Lay(t *testing.T) {
+	// five is a node that has done five requests, and dropped none.
+	five := func() *replica.Node {
+		n := of(t, 1, 2, 100)
+		for i := range uint64(5) {
+			n.Take(raw(t, prepare(0, ask(1, i+1), i+1, i+1)))
+		}
+		stands(t, n, "normal v0 n0 0 [1.1 1.2 1.3 1.4 1.5] c5")
+		return n
+	}
+	for i, x := range []struct {
+		base    uint64
+		snap    uint64 // of how many requests
+		entries int    // then in the directory
+		kept    bool   // the snapshot is the one that it had
+	}{
+		{7, 7, 7, false}, // above its commit: all is the snapshot's
+		{2, 2, 5, false}, // not above its commit, and not its own base: the snapshot alone
+		{5, 3, 5, false}, // even where the snapshot tells something else
+		{0, 3, 5, true},  // its own base
+	} {
+		n := five()
+		m := begun(t, 1, x.base, 0, three(0, 0, 0))
+		for num := x.base + 1; num <= 8; num++ {
+			m.Log = append(m.Log, ask(1, num))
+		}
+		m.Snap = filled(t, x.snap)
+		n.Take(raw(t, m))
+		want := filled(t, x.snap)
+		if x.kept {
+			want = empty(t)
+		}
+		if got := stateOf(t, n, 1); got.Base != x.base || !slices.Equal(got.Snap, want) || n.Store().Len() != x.entries || n.Commit() != max(x.base, 5) {
+			t.Errorf("%d: base %d, %d entries, commit %d, %d bytes", i, got.Base, n.Store().Len(), n.Commit(), len(got.Snap))
+		}
+		if num, _ := n.Clients().Latest(1); num != uint64(x.entries) {
+			t.Errorf("%d: %d", i, num)
+		}
 	}
 }
 
@@ -455,6 +522,16 @@ func TestP26_2RecoveredView(t *testing.T) {
 	n.Take(raw(t, whole(t, 3, 7, 0, three(0, 0, 7), 0, 0, asks(1, 2)...)))
 	n.Take(raw(t, recovered(3, 7, 1, 0, 0, 7)))
 	stands(t, n, "normal v3 n3 0 [1.1 1.2] c0")
+	// All may be told of view 0.
+	n = back(t, 1, 2, 7)
+	n.Take(raw(t, whole(t, 0, 7, 0, three(0, 0, 7), 0, 1, asks(1)...)))
+	n.Take(raw(t, recovered(0, 7, 1, 0, 0, 7)))
+	stands(t, n, "normal v0 n0 0 [1.1] c1")
+	// The whole one must be of the greatest view, though it is of its primary.
+	n = back(t, 1, 2, 7)
+	n.Take(raw(t, whole(t, 1, 7, 1, three(0, 0, 7), 0, 0, asks(1)...)))
+	n.Take(raw(t, recovered(4, 7, 0, 0, 0, 7)))
+	stands(t, n, "recover v0 n0 0 [] c0")
 	// The whole one must be of that view's primary.
 	n = back(t, 1, 2, 7)
 	n.Take(raw(t, whole(t, 3, 7, 1, three(0, 0, 7), 0, 0, asks(1)...)))
@@ -567,10 +644,15 @@ func TestP26_2StateFetch(t *testing.T) {
 			t.Fatal(i)
 		}
 	}
-	n.Take(raw(t, state(2, 2, nil, 2)))
+	n = of(t, 1, 1, 100)
+	n.Take(raw(t, commit(2, 0)))
+	n.Take(raw(t, state(2, 0, nil, 2, asks(1, 2)...)))
 	stands(t, n, "normal v2 n2 0 [1.1 1.2] c2")
 	ticks(t, n) // it has heard something
 	stands(t, n, "normal v2 n2 0 [1.1 1.2] c2")
+	if len(n.Did()) != 0 {
+		t.Error(n.Did())
+	}
 }
 
 func TestP26_2Every(t *testing.T) {
@@ -601,6 +683,21 @@ func TestP26_2GreatLog(t *testing.T) {
 			r.Op.Attrs = append(r.Op.Attrs, api.Attr{Type: "t", Value: fmt.Sprint(i) + strings.Repeat("v", 990)})
 		}
 		return r
+	}
+	// Just as many bytes are not too many.
+	exact := of(t, 1, 0, 4096)
+	for exact.Log().Size() < 1<<20 {
+		r := api.Request{Client: 1, Num: uint64(exact.Log().Len() + 1), Op: api.Op{Kind: api.OpLookup}}
+		b, _ := message.RequestBytes(r)
+		rest := 1<<20 - exact.Log().Size() - len(b) // of which the name has some, and another request may have what is left
+		if rest > 1000 {
+			rest = min(1000, rest-len(b))
+		}
+		r.Op.Name = strings.Repeat("n", rest)
+		exact.Take(raw(t, request(r)))
+	}
+	if exact.Take(raw(t, ok(0, 1, 1))); exact.Log().Size() != 1<<20 || exact.Log().Base() != 0 || exact.Commit() != 1 {
+		t.Error(exact.Log().Size(), exact.Log().Base(), exact.Commit())
 	}
 	n := of(t, 1, 0, 4096)
 	for n.Log().Size() <= 1<<20 {
@@ -730,6 +827,12 @@ func TestP26_3CopySame(t *testing.T) {
 	}
 	if !a.Same(b) {
 		t.Error("both were told the same")
+	}
+	x, y := of(t, 2, 1, 100), of(t, 2, 1, 100)
+	x.Take(raw(t, do(t, 1, 0, 0, 0, 0, make([]uint64, 5), asks(1)...)))
+	y.Take(raw(t, do(t, 1, 0, 0, 0, 0, make([]uint64, 5), asks(2)...)))
+	if x.Same(y) {
+		t.Error("both were told something else")
 	}
 	a.Tick()
 	if a.Same(b) {

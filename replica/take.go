@@ -144,8 +144,7 @@ func (n *Node) takePrepareOK(m api.Message) bool {
 		return false
 	}
 	n.has[m.From] = max(n.has[m.From], min(m.At, n.log.End()))
-	rising := slices.Clone(n.has[:n.many()])
-	rising[n.config.Node] = 0 // what others have is asked
+	rising := slices.Clone(n.has[:n.many()]) // of itself it has noted nothing
 	slices.Sort(rising)
 	n.doUpTo(rising[n.many()-n.config.F])
 	return true

@@ -96,25 +96,22 @@ func (n *Node) gather() {
 	if n.mode != api.Change || n.dos.count() < n.config.F {
 		return
 	}
-	best := n.whole(api.MsgDo)
+	best, commit := n.whole(api.MsgDo), n.commit
 	best.Normal = n.normal
-	own, commit := true, n.commit
 	for _, x := range n.dos {
 		if !x.is {
 			continue
 		}
 		commit = max(commit, x.m.Commit)
 		if x.m.Normal > best.Normal || x.m.Normal == best.Normal && end(x.m) > end(best) {
-			best, own = x.m, false
+			best = x.m
 		}
 	}
-	if !own {
-		x, is := n.layerOf(best)
-		if !is {
-			return
-		}
-		n.lay(x)
+	x, is := n.layerOf(best)
+	if !is {
+		return
 	}
+	n.lay(x)
 	n.settle(n.view)
 	n.has = [api.MaxNodes]uint64{}
 	n.sendAll(n.whole(api.MsgView))

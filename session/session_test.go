@@ -116,6 +116,10 @@ func TestP27_1Take(t *testing.T) {
 	if _, is := s.Under(); !is {
 		t.Error("it is under way")
 	}
+	zero := of(t, 0, 3)
+	if _, is := zero.Take(other); is || zero.View() != 0 || zero.Dropped() != 1 {
+		t.Error(zero.View(), zero.Dropped())
+	}
 	if r, is := s.Take(reply(t, 3, 7, 1, named("a"))); !is || !message.SameResult(r, named("a")) || s.View() != 4 || s.Dropped() != 4 {
 		t.Error(r, is)
 	}

@@ -53,9 +53,8 @@ func (s *Store) Do(o api.Op) api.Result {
 	return api.Result{Entries: []api.Entry{entry.Copy(old.entry)}}
 }
 
-// put puts an item at a place.
+// put puts an item at a place where none stands.
 func (s *Store) put(place []byte, x item) {
-	s.take(place)
 	s.tree.Put(place, x)
 	s.size += sizeOf(x.entry)
 }

@@ -174,10 +174,7 @@ func (w *World) deliver(at int) {
 
 // answer has a client take what goes to it.
 func (w *World) answer(s api.Sent) {
-	c := w.Session(s.Client)
-	if c == nil {
-		return
-	}
+	c := w.Session(s.Client) // nil, where there is no such client: it takes nothing
 	r, is := c.Take(s.Bytes)
 	if !is {
 		return

@@ -183,6 +183,12 @@ func TestP28_1AskCarryAll(t *testing.T) {
 	if w.Session(2).Num() != 2 || w.Node(0).Commit() != 3 {
 		t.Error(w.Session(2).Num())
 	}
+	// Of two requests of one number just the one is answered that is.
+	w = of(t, 1, 2)
+	does(t, w, ask(1, add("a")), ask(2, add("b")), carry(1), carry(2), carry(4), carry(5))
+	if h := w.History(); h[0].Done || !h[1].Done || h[1].To != 5 {
+		t.Error(h)
+	}
 }
 
 func TestP28_1Carry(t *testing.T) {
@@ -323,11 +329,16 @@ func TestP28_1Limits(t *testing.T) {
 	if sent := len(w.Net()) - before; w.Waiting() != 2101+sent-2000 || sent == 0 {
 		t.Error(w.Waiting(), sent)
 	}
-	if r, is := w.Session(1).Under(); !is {
-		t.Fatal(r)
-	}
-	for many := len(w.Net()); many < api.MaxNet; many += 7 {
+}
+
+func TestP28_1FullNet(t *testing.T) {
+	w := of(t, 1, 1)
+	does(t, w, ask(1, add("a")))
+	for many := 1; many < api.MaxNet; many += 3 {
 		does(t, w, on(api.ActRetry, 1))
+	}
+	if many := len(w.Net()); many != api.MaxNet {
+		t.Fatal(many)
 	}
 	dropped, clock, many := w.Node(0).Dropped(), w.Acts(), len(w.Net())
 	for i, a := range []api.Act{all, carry(0), on(api.ActTick, 0), on(api.ActRetry, 1), on(api.ActOff, 0), {Kind: api.ActBytes}} {
@@ -463,6 +474,16 @@ func TestP28_2Copy(t *testing.T) {
 	}
 	if h := kept.History(); h[0].Done || len(kept.Order()) != 0 {
 		t.Error(h)
+	}
+	// Each goes on with a net of its own.
+	a, b := kept.Copy(), kept.Copy()
+	does(t, a, on(api.ActTick, 0))
+	does(t, b, on(api.ActRetry, 1), on(api.ActRetry, 2))
+	does(t, kept, carry(0), on(api.ActTick, 1))
+	for i, x := range []*world.World{a, b, kept} {
+		if got, want := net(t, x), []string{"0:1 1:3 2:3 0:1 1:3 2:3", "0:1 1:3 2:3 0:1 0:1 1:1 2:1 0:1 1:1 2:1", "0:1 1:3 2:3 0:1 0:6 2:6"}[i]; got != want {
+			t.Errorf("%d: %s, not %s", i, got, want)
+		}
 	}
 }
 
