@@ -555,7 +555,7 @@ func TestP23_3Check(t *testing.T) {
 		why  api.Errno
 	}{
 		{make([]byte, api.MaxMessage+1), "length", api.ErrLong}, {append(slices.Clone(good), make([]byte, api.MaxMessage)...), "length", api.ErrLong},
-		{kind(0), "kind", api.ErrBytes}, {kind(13), "kind", api.ErrBytes}, {kind(1 << 63), "kind", api.ErrBytes}, {kind(1<<32 + 5), "kind", api.ErrBytes}, {turned, "kind", api.ErrBytes}, {[]byte{1, 0, 0, 0, 1, 5}, "kind", api.ErrBytes}, {make([]byte, api.MaxMessage), "kind", api.ErrBytes},
+		{kind(0), "kind", api.ErrBytes}, {kind(13), "kind", api.ErrBytes}, {kind(1 << 63), "kind", api.ErrBytes}, {kind(1<<32 + 5), "kind", api.ErrBytes}, {turned, "kind", api.ErrBytes}, {[]byte{1, 0, 0, 0, 1, 5}, "kind", api.ErrBytes},
 		{kind(6), "fields", api.ErrBytes}, {good[:len(good)-1], "fields", api.ErrBytes}, {good[:13], "fields", api.ErrBytes}, {append(slices.Clone(good), 1), "fields", api.ErrBytes}, {request, "fields", api.ErrBytes}, {from, "fields", api.ErrBytes}, {farFrom, "fields", api.ErrBytes}, {seen, "fields", api.ErrBytes}, {log, "fields", api.ErrBytes},
 	} {
 		m, e := message.Of(x.b)
